@@ -32,6 +32,14 @@ func (t *Taker) At() int {
 	return t.at
 }
 
+// Left tells how many bytes it may still take.
+func (t *Taker) Left() int {
+	if t.failed {
+		return 0
+	}
+	return len(t.text) - t.at
+}
+
 // Must fails, unless so it is.
 func (t *Taker) Must(so bool) {
 	if !so {

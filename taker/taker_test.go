@@ -11,16 +11,16 @@ import (
 // checkAt asks whether t stands at a place and has not failed.
 func checkAt(t *testing.T, k *Taker, want int) {
 	t.Helper()
-	if !k.Ok() || k.At() != want {
-		t.Errorf("at %d, ok %v; want %d", k.At(), k.Ok(), want)
+	if !k.Ok() || k.At() != want || k.Left() != len(k.text)-want {
+		t.Errorf("at %d, %d left, ok %v; want %d", k.At(), k.Left(), k.Ok(), want)
 	}
 }
 
 // checkFailed asks whether t takes nothing any more, whatever it is asked for.
 func checkFailed(t *testing.T, k *Taker) {
 	t.Helper()
-	if k.Ok() {
-		t.Errorf("at %d it has not failed", k.At())
+	if k.Ok() || k.Left() != 0 {
+		t.Errorf("at %d it has not failed, or %d bytes are left", k.At(), k.Left())
 	}
 	k.Must(true)
 	if x, s, n := k.Number(1), k.Text(0), k.Name(); k.Ok() || x != 0 || s != "" || n != "" {
